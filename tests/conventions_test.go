@@ -1,0 +1,245 @@
+package tests
+
+import (
+	"math"
+	"reflect"
+	"slices"
+	"strings"
+	"testing"
+
+	"loop.example/g01121/impl"
+)
+
+// A listed function is one that the document lists. Its arguments are taken
+// from pools by their types, so that a test of the conventions needs no more
+// than the function itself.
+type listed struct {
+	name     string
+	function any
+	succeeds bool // the last result says whether the function succeeds
+}
+
+func basicFunctions() []listed {
+	return []listed{
+		{"IsName", impl.IsName, false},
+		{"Decimal", impl.Decimal, false},
+		{"ReadDecimal", impl.ReadDecimal, true},
+		{"IsBits", impl.IsBits, false},
+		{"OnesOf", impl.OnesOf, true},
+		{"XorBits", impl.XorBits, true},
+		{"RunLengths", impl.RunLengths, true},
+		{"BitsOf", impl.BitsOf, true},
+		{"NumberOfBits", impl.NumberOfBits, true},
+		{"ParityOf", impl.ParityOf, true},
+		{"ValidFraction", impl.ValidFraction, false},
+		{"MakeFraction", impl.MakeFraction, true},
+		{"AddFractions", impl.AddFractions, true},
+		{"SubFractions", impl.SubFractions, true},
+		{"MulFractions", impl.MulFractions, true},
+		{"DivFractions", impl.DivFractions, true},
+		{"CompareFractions", impl.CompareFractions, true},
+		{"SumFractions", impl.SumFractions, true},
+		{"FractionText", impl.FractionText, true},
+		{"ReadFraction", impl.ReadFraction, true},
+		{"BinomialOf", impl.BinomialOf, true},
+		{"ListText", impl.ListText, true},
+		{"ReadList", impl.ReadList, true},
+		{"CheckOf", impl.CheckOf, true},
+	}
+}
+
+func numberPool() []int64 {
+	return []int64{
+		math.MinInt64, math.MinInt64 + 1, -impl.MaxPart - 1, -impl.MaxPart,
+		-impl.MaxValue - 1, -impl.MaxValue, -400, -2, -1, 0, 1, 2, 3, 7,
+		59, 60, 61, 63, 64, 65, 399, 400, 401, impl.CheckSize - 1, impl.CheckSize,
+		impl.MaxValue - 1, impl.MaxValue, impl.MaxValue + 1,
+		impl.MaxPart - 1, impl.MaxPart, impl.MaxPart + 1, math.MaxInt64 - 1, math.MaxInt64,
+	}
+}
+
+func textPool() []string {
+	return []string{
+		"", "a", "coin", "zzzzzzzzzz", "aaaaaaaaaaa", "Coin", "a1", "é", "\xff", "\x00",
+		"0", "1", "01", "0110", strings.Repeat("01", 30), strings.Repeat("1", 61),
+		strings.Repeat("01", 200), strings.Repeat("0", 401), "012",
+		"-1", "-0", "+1", "007", " 1", "1.0", "1000000000000000", "1000000000000001",
+		"-9223372036854775808", "9223372036854775808", strings.Repeat("9", 100),
+		"1/2", "2/4", "3/1", "-3/2", "1/0", "1/-2", "/", "1/", "/2", "1/2/3",
+		"none", "None", "1,2", "1,,2", ",", "none,1", strings.Repeat("1,", 63) + "1", strings.Repeat("1,", 64) + "1",
+	}
+}
+
+func fractionPool() []impl.Fraction {
+	return []impl.Fraction{
+		{}, {Num: 0, Den: 1}, {Num: 0, Den: 2}, {Num: 1, Den: 0}, {Num: 1, Den: 1}, {Num: -1, Den: 1},
+		{Num: 1, Den: 2}, {Num: -1, Den: 2}, {Num: 1, Den: -2}, {Num: -1, Den: -2}, {Num: 2, Den: 4}, {Num: 2, Den: 3},
+		{Num: impl.MaxPart, Den: 1}, {Num: -impl.MaxPart, Den: 1}, {Num: 1, Den: impl.MaxPart}, {Num: -1, Den: impl.MaxPart},
+		{Num: impl.MaxPart, Den: impl.MaxPart - 1}, {Num: impl.MaxPart - 1, Den: impl.MaxPart},
+		{Num: impl.MaxPart, Den: impl.MaxPart}, {Num: impl.MaxPart + 1, Den: 1}, {Num: 1, Den: impl.MaxPart + 1},
+		{Num: math.MinInt64, Den: 1}, {Num: math.MaxInt64, Den: 1}, {Num: 1, Den: math.MaxInt64},
+		{Num: math.MinInt64, Den: math.MinInt64}, {Num: 1, Den: math.MinInt64},
+	}
+}
+
+// repeated returns a list with spare capacity that is not all zero.
+func repeated[T any](x T, count int) []T {
+	list := make([]T, count+2)
+	for i := range list {
+		list[i] = x
+	}
+	return list[:count]
+}
+
+func numberListPool() [][]int64 {
+	return [][]int64{
+		nil, {}, {0}, {5, -3, 5}, repeated[int64](7, 64), repeated[int64](7, 65), repeated[int64](0, 0),
+		{impl.MaxValue, -impl.MaxValue}, {impl.MaxValue + 1}, {1, -impl.MaxValue - 1}, {math.MinInt64}, {math.MaxInt64},
+	}
+}
+
+func fractionListPool() [][]impl.Fraction {
+	return [][]impl.Fraction{
+		nil, {}, {{Num: 1, Den: 6}, {Num: 1, Den: 3}}, repeated(impl.Fraction{Num: 1, Den: 64}, 64),
+		repeated(impl.Fraction{Num: 0, Den: 1}, 65), {{}}, {{Num: impl.MaxPart, Den: 1}, {Num: 1, Den: 1}},
+		{{Num: math.MinInt64, Den: 1}}, {{Num: 1, Den: 2}, {Num: 2, Den: 4}},
+	}
+}
+
+func poolOf[T any](list []T) []reflect.Value {
+	var pool []reflect.Value
+	for _, x := range list {
+		pool = append(pool, reflect.ValueOf(x))
+	}
+	return pool
+}
+
+func argumentPool(t *testing.T, kind reflect.Type) []reflect.Value {
+	t.Helper()
+	for _, pool := range [][]reflect.Value{
+		poolOf(numberPool()), poolOf(textPool()), poolOf(fractionPool()),
+		poolOf(numberListPool()), poolOf(fractionListPool()),
+	} {
+		if pool[0].Type() == kind {
+			return pool
+		}
+	}
+	t.Fatalf("there are no arguments of the type %v", kind)
+	return nil
+}
+
+// allArguments returns all lists of arguments that the pools give.
+func allArguments(t *testing.T, kind reflect.Type) [][]reflect.Value {
+	t.Helper()
+	lists := [][]reflect.Value{nil}
+	for i := range kind.NumIn() {
+		var longer [][]reflect.Value
+		for _, list := range lists {
+			for _, argument := range argumentPool(t, kind.In(i)) {
+				longer = append(longer, append(slices.Clone(list), argument))
+			}
+		}
+		lists = longer
+	}
+	return lists
+}
+
+// wholeCopy copies an argument with its spare capacity.
+func wholeCopy(v reflect.Value) reflect.Value {
+	if v.Kind() != reflect.Slice {
+		return v
+	}
+	whole := v.Slice(0, v.Cap())
+	list := reflect.MakeSlice(v.Type(), whole.Len(), whole.Len())
+	reflect.Copy(list, whole)
+	return list
+}
+
+func valuesOf(list []reflect.Value) []any {
+	var values []any
+	for _, v := range list {
+		values = append(values, v.Interface())
+	}
+	return values
+}
+
+func isNothing(v reflect.Value) bool {
+	return v.IsZero() || v.Kind() == reflect.Slice && v.Len() == 0
+}
+
+func spoil(results []reflect.Value) {
+	for _, v := range results {
+		if v.Kind() == reflect.Slice {
+			for i := range v.Len() {
+				v.Index(i).SetInt(99)
+			}
+		}
+	}
+}
+
+func checkConventions(t *testing.T, f listed, arguments []reflect.Value) {
+	t.Helper()
+	var before []reflect.Value
+	for _, v := range arguments {
+		before = append(before, wholeCopy(v))
+	}
+	call := reflect.ValueOf(f.function)
+	first := call.Call(arguments)
+	again := call.Call(arguments)
+	if !reflect.DeepEqual(valuesOf(first), valuesOf(again)) {
+		t.Errorf("%s%v: first %v, then %v", f.name, valuesOf(arguments), valuesOf(first), valuesOf(again))
+	}
+	// Two calls share no memory, so that spoiling one result changes neither
+	// an argument nor what the next call returns.
+	spoil(first)
+	if third := call.Call(arguments); !reflect.DeepEqual(valuesOf(again), valuesOf(third)) {
+		t.Errorf("%s%v: a change to its result lasts", f.name, valuesOf(arguments))
+	}
+	for i, v := range arguments {
+		if !reflect.DeepEqual(before[i].Interface(), wholeCopy(v).Interface()) {
+			t.Errorf("%s%v: modifies the argument %d", f.name, valuesOf(arguments), i)
+		}
+	}
+	if last := again[len(again)-1]; f.succeeds && !last.Bool() {
+		for _, v := range again {
+			if !isNothing(v) {
+				t.Errorf("%s%v: fails with the results %v", f.name, valuesOf(arguments), valuesOf(again))
+			}
+		}
+	}
+}
+
+// Promise 1, as far as it speaks of chapter 1.
+func TestPromise1Basics(t *testing.T) {
+	for _, f := range basicFunctions() {
+		t.Run(f.name, func(t *testing.T) {
+			for _, arguments := range allArguments(t, reflect.TypeOf(f.function)) {
+				checkConventions(t, f, arguments)
+			}
+		})
+	}
+}
+
+func TestPromise1LongArguments(t *testing.T) {
+	long := strings.Repeat("1", 1<<20)
+	commas := strings.Repeat("1,", 1<<20)
+	for _, s := range []string{long, commas, "none" + commas, long + "/" + long} {
+		_, decimal := impl.ReadDecimal(s)
+		_, number := impl.NumberOfBits(s)
+		_, fraction := impl.ReadFraction(s)
+		_, list := impl.ReadList(s)
+		_, runs := impl.RunLengths(s)
+		if impl.IsName(s) || impl.IsBits(s) || decimal || number || fraction || list || runs {
+			t.Errorf("a text with %d bytes is accepted", len(s))
+		}
+	}
+	if _, ok := impl.CheckOf(0, long); !ok {
+		t.Error("CheckOf fails for a long text")
+	}
+	if _, ok := impl.ListText(make([]int64, 1<<20)); ok {
+		t.Error("ListText accepts a long list")
+	}
+	if _, ok := impl.SumFractions(repeated(impl.Fraction{Num: 0, Den: 1}, 1<<20)); ok {
+		t.Error("SumFractions accepts a long list")
+	}
+}
