@@ -89,7 +89,7 @@ func RunLengths(s string) ([]int64, bool) {
 
 // BitsOf returns the bits of a number.
 func BitsOf(n, width int64) (string, bool) {
-	if !isBetween(width, 0, MaxDigits) || !isBetween(n, 0, int64(1)<<width-1) {
+	if !isBetween(width, 0, MaxDigits) || !isBetween(n, 0, ones(width)) {
 		return "", false
 	}
 	digits := make([]byte, width)
@@ -116,7 +116,7 @@ func ParityOf(n, mask int64) (int64, bool) {
 	if n < 0 || mask < 0 {
 		return 0, false
 	}
-	return int64(bits.OnesCount64(uint64(n&mask)) % 2), true
+	return parity(n & mask), true
 }
 
 // ValidFraction reports whether f is valid.
@@ -304,6 +304,12 @@ func hasOnly(s string, first, last rune) bool {
 	}
 	return true
 }
+
+// ones returns the greatest number with as many bits as width, at most 62.
+func ones(width int64) int64 { return int64(1)<<width - 1 }
+
+// parity returns 1 if an odd number of the bits of n are 1, and 0 otherwise.
+func parity(n int64) int64 { return int64(bits.OnesCount64(uint64(n)) % 2) }
 
 func isValue(n int64) bool { return isBetween(n, -MaxValue, MaxValue) }
 

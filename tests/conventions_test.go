@@ -48,11 +48,37 @@ func basicFunctions() []listed {
 	}
 }
 
+func registerFunctions() []listed {
+	return []listed{
+		{"ValidRegister", impl.ValidRegister, false},
+		{"StepRegister", impl.StepRegister, true},
+		{"RegisterBits", impl.RegisterBits, true},
+		{"JumpRegister", impl.JumpRegister, true},
+		{"RegisterCycle", impl.RegisterCycle, true},
+		{"PolyOf", impl.PolyOf, true},
+		{"MulPolys", impl.MulPolys, true},
+		{"DividePolys", impl.DividePolys, true},
+		{"GcdPolys", impl.GcdPolys, true},
+		{"PowerOfX", impl.PowerOfX, true},
+		{"FactorsOf", impl.FactorsOf, true},
+		{"OrderOfX", impl.OrderOfX, true},
+		{"IsPrimitive", impl.IsPrimitive, false},
+		{"ShortestRegister", impl.ShortestRegister, true},
+		{"WidthsOf", impl.WidthsOf, true},
+		{"AgreementsOf", impl.AgreementsOf, true},
+		{"TakeEvery", impl.TakeEvery, true},
+		{"TableCycles", impl.TableCycles, true},
+		{"IsAllWords", impl.IsAllWords, false},
+		{"LeastAllWords", impl.LeastAllWords, true},
+	}
+}
+
 func numberPool() []int64 {
 	return []int64{
 		math.MinInt64, math.MinInt64 + 1, -impl.MaxPart - 1, -impl.MaxPart,
-		-impl.MaxValue - 1, -impl.MaxValue, -400, -2, -1, 0, 1, 2, 3, 7,
-		59, 60, 61, 63, 64, 65, 399, 400, 401, impl.CheckSize - 1, impl.CheckSize,
+		-impl.MaxValue - 1, -impl.MaxValue, -400, -2, -1, 0, 1, 2, 3, 6, 7, 15, 16, 17, 32,
+		59, 60, 61, 63, 64, 65, 399, 400, 401, 65535, 65536, 69643, 131071, 131072,
+		impl.CheckSize - 1, impl.CheckSize, impl.PolyLimit - 1, impl.PolyLimit,
 		impl.MaxValue - 1, impl.MaxValue, impl.MaxValue + 1,
 		impl.MaxPart - 1, impl.MaxPart, impl.MaxPart + 1, math.MaxInt64 - 1, math.MaxInt64,
 	}
@@ -62,7 +88,8 @@ func textPool() []string {
 	return []string{
 		"", "a", "coin", "zzzzzzzzzz", "aaaaaaaaaaa", "Coin", "a1", "é", "\xff", "\x00",
 		"0", "1", "01", "0110", strings.Repeat("01", 30), strings.Repeat("1", 61),
-		strings.Repeat("01", 200), strings.Repeat("0", 401), "012",
+		strings.Repeat("01", 200), strings.Repeat("0", 401), "012", "0011", "00010111",
+		strings.Repeat("0", 15) + "1", strings.Repeat("0", 16) + "1", strings.Repeat("1", 32), strings.Repeat("0", 33), strings.Repeat("10", 32),
 		"-1", "-0", "+1", "007", " 1", "1.0", "1000000000000000", "1000000000000001",
 		"-9223372036854775808", "9223372036854775808", strings.Repeat("9", 100),
 		"1/2", "2/4", "3/1", "-3/2", "1/0", "1/-2", "/", "1/", "/2", "1/2/3",
@@ -79,6 +106,14 @@ func fractionPool() []impl.Fraction {
 		{Num: impl.MaxPart, Den: impl.MaxPart}, {Num: impl.MaxPart + 1, Den: 1}, {Num: 1, Den: impl.MaxPart + 1},
 		{Num: math.MinInt64, Den: 1}, {Num: math.MaxInt64, Den: 1}, {Num: 1, Den: math.MaxInt64},
 		{Num: math.MinInt64, Den: math.MinInt64}, {Num: 1, Den: math.MinInt64},
+	}
+}
+
+func registerPool() []impl.Register {
+	return []impl.Register{
+		{}, {Width: 0, Taps: 1}, {Width: 1}, {Width: 1, Taps: 1}, {Width: 1, Taps: 2}, {Width: 3, Taps: 3}, {Width: 3, Taps: 8},
+		{Width: 16}, {Width: 16, Taps: 4107}, {Width: 16, Taps: 65535}, {Width: 16, Taps: 65536}, {Width: 17, Taps: 1},
+		{Width: -1}, {Width: 3, Taps: -1}, {Width: 64, Taps: 1}, {Width: math.MinInt64, Taps: math.MinInt64}, {Width: math.MaxInt64, Taps: math.MaxInt64},
 	}
 }
 
@@ -118,7 +153,7 @@ func argumentPool(t *testing.T, kind reflect.Type) []reflect.Value {
 	t.Helper()
 	for _, pool := range [][]reflect.Value{
 		poolOf(numberPool()), poolOf(textPool()), poolOf(fractionPool()),
-		poolOf(numberListPool()), poolOf(fractionListPool()),
+		poolOf(numberListPool()), poolOf(fractionListPool()), poolOf(registerPool()),
 	} {
 		if pool[0].Type() == kind {
 			return pool
@@ -209,9 +244,9 @@ func checkConventions(t *testing.T, f listed, arguments []reflect.Value) {
 	}
 }
 
-// Promise 1, as far as it speaks of chapter 1.
-func TestPromise1Basics(t *testing.T) {
-	for _, f := range basicFunctions() {
+func checkPromise1(t *testing.T, functions []listed) {
+	t.Helper()
+	for _, f := range functions {
 		t.Run(f.name, func(t *testing.T) {
 			for _, arguments := range allArguments(t, reflect.TypeOf(f.function)) {
 				checkConventions(t, f, arguments)
@@ -219,6 +254,12 @@ func TestPromise1Basics(t *testing.T) {
 		})
 	}
 }
+
+// Promise 1, as far as it speaks of chapter 1.
+func TestPromise1Basics(t *testing.T) { checkPromise1(t, basicFunctions()) }
+
+// Promise 1, as far as it speaks of chapter 2.
+func TestPromise1Registers(t *testing.T) { checkPromise1(t, registerFunctions()) }
 
 func TestPromise1LongArguments(t *testing.T) {
 	long := strings.Repeat("1", 1<<20)
@@ -229,6 +270,14 @@ func TestPromise1LongArguments(t *testing.T) {
 		_, fraction := impl.ReadFraction(s)
 		_, list := impl.ReadList(s)
 		_, runs := impl.RunLengths(s)
+		_, _, shortest := impl.ShortestRegister(s)
+		_, widths := impl.WidthsOf(s)
+		_, agreements := impl.AgreementsOf(s)
+		_, taken := impl.TakeEvery(s, 1)
+		_, cycles := impl.TableCycles(6, s)
+		if shortest || widths || agreements || taken || cycles || impl.IsAllWords(6, s) {
+			t.Errorf("a text with %d bytes is accepted as bits", len(s))
+		}
 		if impl.IsName(s) || impl.IsBits(s) || decimal || number || fraction || list || runs {
 			t.Errorf("a text with %d bytes is accepted", len(s))
 		}
