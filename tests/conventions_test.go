@@ -73,11 +73,31 @@ func registerFunctions() []listed {
 	}
 }
 
+func congruenceFunctions() []listed {
+	return []listed{
+		{"ValidCongruence", impl.ValidCongruence, false},
+		{"NextState", impl.NextState, true},
+		{"StatesOf", impl.StatesOf, true},
+		{"JumpState", impl.JumpState, true},
+		{"PowerCongruence", impl.PowerCongruence, true},
+		{"BackCongruence", impl.BackCongruence, true},
+		{"StateCycle", impl.StateCycle, true},
+		{"IsFull", impl.IsFull, false},
+		{"FactorOrder", impl.FactorOrder, true},
+		{"ShortestPoint", impl.ShortestPoint, true},
+		{"ShortestWave", impl.ShortestWave, true},
+		{"ModulusFrom", impl.ModulusFrom, true},
+		{"FactorsFrom", impl.FactorsFrom, true},
+		{"CongruenceText", impl.CongruenceText, true},
+		{"ReadCongruence", impl.ReadCongruence, true},
+	}
+}
+
 func numberPool() []int64 {
 	return []int64{
 		math.MinInt64, math.MinInt64 + 1, -impl.MaxPart - 1, -impl.MaxPart,
-		-impl.MaxValue - 1, -impl.MaxValue, -400, -2, -1, 0, 1, 2, 3, 6, 7, 15, 16, 17, 32,
-		59, 60, 61, 63, 64, 65, 399, 400, 401, 65535, 65536, 69643, 131071, 131072,
+		-impl.MaxValue - 1, -impl.MaxValue, -400, -2, -1, 0, 1, 2, 3, 4, 6, 7, 10, 15, 16, 17, 32,
+		59, 60, 61, 63, 64, 65, 399, 400, 401, 65535, 65536, 69643, 99999, 100000, 100001, 131071, 131072,
 		impl.CheckSize - 1, impl.CheckSize, impl.PolyLimit - 1, impl.PolyLimit,
 		impl.MaxValue - 1, impl.MaxValue, impl.MaxValue + 1,
 		impl.MaxPart - 1, impl.MaxPart, impl.MaxPart + 1, math.MaxInt64 - 1, math.MaxInt64,
@@ -94,6 +114,7 @@ func textPool() []string {
 		"-9223372036854775808", "9223372036854775808", strings.Repeat("9", 100),
 		"1/2", "2/4", "3/1", "-3/2", "1/0", "1/-2", "/", "1/", "/2", "1/2/3",
 		"none", "None", "1,2", "1,,2", ",", "none,1", strings.Repeat("1,", 63) + "1", strings.Repeat("1,", 64) + "1",
+		"10,3,1", "10,10,1", "100000,99999,99999", "100001,1,1", "2,0,0", "1,0,0", "10,3", "10,3,1,0", "10,03,1",
 	}
 }
 
@@ -117,6 +138,18 @@ func registerPool() []impl.Register {
 	}
 }
 
+func congruencePool() []impl.Congruence {
+	return []impl.Congruence{
+		{}, {Modulus: 1}, {Modulus: 2}, {Modulus: 2, Factor: 1, Add: 1}, {Modulus: 2, Factor: 2}, {Modulus: 2, Add: 2},
+		{Modulus: 10, Factor: 3, Add: 1}, {Modulus: 10, Factor: 2}, {Modulus: 10, Factor: 10, Add: 1}, {Modulus: 10, Factor: 3, Add: 10},
+		{Modulus: 10, Factor: -1}, {Modulus: 10, Add: -1}, {Modulus: -10, Factor: -3, Add: -1}, {Modulus: 16, Factor: 5, Add: 3},
+		{Modulus: 100000}, {Modulus: 100000, Factor: 21, Add: 3}, {Modulus: 100000, Factor: 99999, Add: 99999}, {Modulus: 100000, Factor: 100000},
+		{Modulus: 100001, Factor: 1, Add: 1}, {Factor: 1, Add: 1}, {Modulus: 99991, Factor: 48271},
+		{Modulus: math.MaxInt64, Factor: math.MaxInt64 - 1, Add: math.MaxInt64 - 1}, {Modulus: math.MinInt64, Factor: math.MinInt64, Add: math.MinInt64},
+		{Modulus: 10, Factor: math.MinInt64, Add: math.MaxInt64},
+	}
+}
+
 // repeated returns a list with spare capacity that is not all zero.
 func repeated[T any](x T, count int) []T {
 	list := make([]T, count+2)
@@ -130,6 +163,7 @@ func numberListPool() [][]int64 {
 	return [][]int64{
 		nil, {}, {0}, {5, -3, 5}, repeated[int64](7, 64), repeated[int64](7, 65), repeated[int64](0, 0),
 		{impl.MaxValue, -impl.MaxValue}, {impl.MaxValue + 1}, {1, -impl.MaxValue - 1}, {math.MinInt64}, {math.MaxInt64},
+		{1, 4, 3, 0}, {1, 1, 1, 1}, {0, 1, 2}, {0, 99999, 0, 99999, 5}, {1, 4, 3, 100000}, {1, 4, -3, 0}, repeated[int64](99999, 63),
 	}
 }
 
@@ -153,7 +187,7 @@ func argumentPool(t *testing.T, kind reflect.Type) []reflect.Value {
 	t.Helper()
 	for _, pool := range [][]reflect.Value{
 		poolOf(numberPool()), poolOf(textPool()), poolOf(fractionPool()),
-		poolOf(numberListPool()), poolOf(fractionListPool()), poolOf(registerPool()),
+		poolOf(numberListPool()), poolOf(fractionListPool()), poolOf(registerPool()), poolOf(congruencePool()),
 	} {
 		if pool[0].Type() == kind {
 			return pool
@@ -261,6 +295,9 @@ func TestPromise1Basics(t *testing.T) { checkPromise1(t, basicFunctions()) }
 // Promise 1, as far as it speaks of chapter 2.
 func TestPromise1Registers(t *testing.T) { checkPromise1(t, registerFunctions()) }
 
+// Promise 1, as far as it speaks of chapter 3.
+func TestPromise1Congruences(t *testing.T) { checkPromise1(t, congruenceFunctions()) }
+
 func TestPromise1LongArguments(t *testing.T) {
 	long := strings.Repeat("1", 1<<20)
 	commas := strings.Repeat("1,", 1<<20)
@@ -278,6 +315,9 @@ func TestPromise1LongArguments(t *testing.T) {
 		if shortest || widths || agreements || taken || cycles || impl.IsAllWords(6, s) {
 			t.Errorf("a text with %d bytes is accepted as bits", len(s))
 		}
+		if _, ok := impl.ReadCongruence(s); ok {
+			t.Errorf("a text with %d bytes is accepted as a congruence", len(s))
+		}
 		if impl.IsName(s) || impl.IsBits(s) || decimal || number || fraction || list || runs {
 			t.Errorf("a text with %d bytes is accepted", len(s))
 		}
@@ -287,6 +327,11 @@ func TestPromise1LongArguments(t *testing.T) {
 	}
 	if _, ok := impl.ListText(make([]int64, 1<<20)); ok {
 		t.Error("ListText accepts a long list")
+	}
+	_, modulus := impl.ModulusFrom(make([]int64, 1<<20))
+	_, factors := impl.FactorsFrom(2, make([]int64, 1<<20))
+	if modulus || factors {
+		t.Error("a long list is accepted as outputs")
 	}
 	if _, ok := impl.SumFractions(repeated(impl.Fraction{Num: 0, Den: 1}, 1<<20)); ok {
 		t.Error("SumFractions accepts a long list")
