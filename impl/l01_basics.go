@@ -296,6 +296,15 @@ func isBetween[N cmp.Ordered](n, least, greatest N) bool {
 	return least <= n && n <= greatest
 }
 
+func areBetween[N cmp.Ordered](list []N, least, greatest N) bool {
+	for _, n := range list {
+		if !isBetween(n, least, greatest) {
+			return false
+		}
+	}
+	return true
+}
+
 func hasOnly(s string, first, last rune) bool {
 	for _, r := range s {
 		if !isBetween(r, first, last) {
@@ -308,23 +317,18 @@ func hasOnly(s string, first, last rune) bool {
 // ones returns the greatest number with as many bits as width, at most 62.
 func ones(width int64) int64 { return int64(1)<<width - 1 }
 
+// weightOf returns how many of the 64 bits of n are 1.
+func weightOf(n int64) int64 { return int64(bits.OnesCount64(uint64(n))) }
+
 // parity returns 1 if an odd number of the bits of n are 1, and 0 otherwise.
-func parity(n int64) int64 { return int64(bits.OnesCount64(uint64(n)) % 2) }
+func parity(n int64) int64 { return weightOf(n) % 2 }
 
 func isValue(n int64) bool { return isBetween(n, -MaxValue, MaxValue) }
 
 func isPart(n int64) bool { return isBetween(n, -MaxPart, MaxPart) }
 
 func isList(list []int64) bool {
-	if len(list) > MaxItems {
-		return false
-	}
-	for _, n := range list {
-		if !isValue(n) {
-			return false
-		}
-	}
-	return true
+	return len(list) <= MaxItems && areBetween(list, -MaxValue, MaxValue)
 }
 
 // readWhole returns the int64 whose Decimal is s. Comparing with Decimal keeps

@@ -93,6 +93,28 @@ func congruenceFunctions() []listed {
 	}
 }
 
+func combinerFunctions() []listed {
+	return []listed{
+		{"IsTable", impl.IsTable, false},
+		{"InputsOf", impl.InputsOf, true},
+		{"ValueAt", impl.ValueAt, true},
+		{"NormalForm", impl.NormalForm, true},
+		{"DegreeOf", impl.DegreeOf, true},
+		{"SpectrumOf", impl.SpectrumOf, true},
+		{"BalanceOf", impl.BalanceOf, true},
+		{"ImmunityOf", impl.ImmunityOf, true},
+		{"NonlinearityOf", impl.NonlinearityOf, true},
+		{"NearestSum", impl.NearestSum, true},
+		{"ShiftsOf", impl.ShiftsOf, true},
+		{"FixedShifts", impl.FixedShifts, true},
+		{"AnnihilatorDegree", impl.AnnihilatorDegree, true},
+		{"CombineBits", impl.CombineBits, true},
+		{"CombinedWidth", impl.CombinedWidth, true},
+		{"ShrinkBits", impl.ShrinkBits, true},
+		{"BestStates", impl.BestStates, true},
+	}
+}
+
 func numberPool() []int64 {
 	return []int64{
 		math.MinInt64, math.MinInt64 + 1, -impl.MaxPart - 1, -impl.MaxPart,
@@ -115,6 +137,7 @@ func textPool() []string {
 		"1/2", "2/4", "3/1", "-3/2", "1/0", "1/-2", "/", "1/", "/2", "1/2/3",
 		"none", "None", "1,2", "1,,2", ",", "none,1", strings.Repeat("1,", 63) + "1", strings.Repeat("1,", 64) + "1",
 		"10,3,1", "10,10,1", "100000,99999,99999", "100001,1,1", "2,0,0", "1,0,0", "10,3", "10,3,1,0", "10,03,1",
+		"10", "01101001", strings.Repeat("0", 64), strings.Repeat("1", 64), strings.Repeat("0110100110010110", 4), strings.Repeat("1", 63), strings.Repeat("0", 128),
 	}
 }
 
@@ -133,6 +156,7 @@ func fractionPool() []impl.Fraction {
 func registerPool() []impl.Register {
 	return []impl.Register{
 		{}, {Width: 0, Taps: 1}, {Width: 1}, {Width: 1, Taps: 1}, {Width: 1, Taps: 2}, {Width: 3, Taps: 3}, {Width: 3, Taps: 8},
+		{Width: 10}, {Width: 10, Taps: 9}, {Width: 10, Taps: 1024}, {Width: 11, Taps: 5},
 		{Width: 16}, {Width: 16, Taps: 4107}, {Width: 16, Taps: 65535}, {Width: 16, Taps: 65536}, {Width: 17, Taps: 1},
 		{Width: -1}, {Width: 3, Taps: -1}, {Width: 64, Taps: 1}, {Width: math.MinInt64, Taps: math.MinInt64}, {Width: math.MaxInt64, Taps: math.MaxInt64},
 	}
@@ -164,6 +188,15 @@ func numberListPool() [][]int64 {
 		nil, {}, {0}, {5, -3, 5}, repeated[int64](7, 64), repeated[int64](7, 65), repeated[int64](0, 0),
 		{impl.MaxValue, -impl.MaxValue}, {impl.MaxValue + 1}, {1, -impl.MaxValue - 1}, {math.MinInt64}, {math.MaxInt64},
 		{1, 4, 3, 0}, {1, 1, 1, 1}, {0, 1, 2}, {0, 99999, 0, 99999, 5}, {1, 4, 3, 100000}, {1, 4, -3, 0}, repeated[int64](99999, 63),
+		{5}, {17}, {2, 16}, {2, 3, 4}, repeated[int64](16, 6), repeated[int64](17, 6), repeated[int64](0, 6), repeated[int64](1, 7),
+	}
+}
+
+func streamsPool() [][]string {
+	long := strings.Repeat("0110", 100)
+	return [][]string{
+		nil, {}, {""}, {"0"}, {"2"}, {long}, {long + "0"}, {"0011", "0101"}, {"0011", "010"}, {"0011", "01a1"}, {"", ""},
+		{"0011", "0101", "1111"}, {"é0", "000", "000"}, repeated(long, 6), repeated(long+"1", 6), repeated("", 6), repeated("1", 7), repeated("01", 0),
 	}
 }
 
@@ -188,6 +221,7 @@ func argumentPool(t *testing.T, kind reflect.Type) []reflect.Value {
 	for _, pool := range [][]reflect.Value{
 		poolOf(numberPool()), poolOf(textPool()), poolOf(fractionPool()),
 		poolOf(numberListPool()), poolOf(fractionListPool()), poolOf(registerPool()), poolOf(congruencePool()),
+		poolOf(streamsPool()),
 	} {
 		if pool[0].Type() == kind {
 			return pool
@@ -298,6 +332,9 @@ func TestPromise1Registers(t *testing.T) { checkPromise1(t, registerFunctions())
 // Promise 1, as far as it speaks of chapter 3.
 func TestPromise1Congruences(t *testing.T) { checkPromise1(t, congruenceFunctions()) }
 
+// Promise 1, as far as it speaks of chapter 4.
+func TestPromise1Combiners(t *testing.T) { checkPromise1(t, combinerFunctions()) }
+
 func TestPromise1LongArguments(t *testing.T) {
 	long := strings.Repeat("1", 1<<20)
 	commas := strings.Repeat("1,", 1<<20)
@@ -322,6 +359,7 @@ func TestPromise1LongArguments(t *testing.T) {
 			t.Errorf("a text with %d bytes is accepted", len(s))
 		}
 	}
+	checkLongTables(t, long)
 	if _, ok := impl.CheckOf(0, long); !ok {
 		t.Error("CheckOf fails for a long text")
 	}
@@ -335,5 +373,26 @@ func TestPromise1LongArguments(t *testing.T) {
 	}
 	if _, ok := impl.SumFractions(repeated(impl.Fraction{Num: 0, Den: 1}, 1<<20)); ok {
 		t.Error("SumFractions accepts a long list")
+	}
+}
+
+// checkLongTables requires that a text whose length is a power of 2, but that
+// is too long for a table, for bits and for streams, is accepted as none.
+func checkLongTables(t *testing.T, long string) {
+	t.Helper()
+	_, form := impl.NormalForm(long)
+	_, spectrum := impl.SpectrumOf(long)
+	_, shifts := impl.ShiftsOf(long)
+	_, annihilator := impl.AnnihilatorDegree(long)
+	_, combined := impl.CombineBits("01", []string{long})
+	_, many := impl.CombineBits(long, repeated("1", 20))
+	_, width := impl.CombinedWidth("01", make([]int64, 1<<20))
+	_, shrunk := impl.ShrinkBits(long, long)
+	_, _, best := impl.BestStates(impl.Register{Width: 3, Taps: 3}, long)
+	if impl.IsTable(long) || form || spectrum || shifts || annihilator || combined || many || width || shrunk || best {
+		t.Errorf("a text with %d bytes is accepted as a table or as bits", len(long))
+	}
+	if _, ok := impl.CombineBits("01", make([]string, 1<<20)); ok {
+		t.Error("many streams are accepted")
 	}
 }
