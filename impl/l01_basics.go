@@ -305,6 +305,15 @@ func areBetween[N cmp.Ordered](list []N, least, greatest N) bool {
 	return true
 }
 
+func isIncreasing[N cmp.Ordered](list []N) bool {
+	for i := range len(list) - 1 {
+		if list[i] >= list[i+1] {
+			return false
+		}
+	}
+	return true
+}
+
 func hasOnly(s string, first, last rune) bool {
 	for _, r := range s {
 		if !isBetween(r, first, last) {

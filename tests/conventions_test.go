@@ -115,10 +115,31 @@ func combinerFunctions() []listed {
 	}
 }
 
+func testFunctions() []listed {
+	return []listed{
+		{"ValidLaw", impl.ValidLaw, false},
+		{"ChanceOf", impl.ChanceOf, true},
+		{"TailOf", impl.TailOf, true},
+		{"LevelOf", impl.LevelOf, true},
+		{"MeanOf", impl.MeanOf, true},
+		{"VarianceOf", impl.VarianceOf, true},
+		{"JoinLaws", impl.JoinLaws, true},
+		{"OnesLaw", impl.OnesLaw, true},
+		{"RunsLaw", impl.RunsLaw, true},
+		{"LongestLaw", impl.LongestLaw, true},
+		{"PatternLaw", impl.PatternLaw, true},
+		{"DifferentLaw", impl.DifferentLaw, true},
+		{"LongestRun", impl.LongestRun, true},
+		{"CountPattern", impl.CountPattern, true},
+		{"TestLevels", impl.TestLevels, true},
+		{"LawText", impl.LawText, true},
+	}
+}
+
 func numberPool() []int64 {
 	return []int64{
 		math.MinInt64, math.MinInt64 + 1, -impl.MaxPart - 1, -impl.MaxPart,
-		-impl.MaxValue - 1, -impl.MaxValue, -400, -2, -1, 0, 1, 2, 3, 4, 6, 7, 10, 15, 16, 17, 32,
+		-impl.MaxValue - 1, -impl.MaxValue, -400, -2, -1, 0, 1, 2, 3, 4, 6, 7, 10, 12, 13, 15, 16, 17, 20, 21, 32, 50, 51,
 		59, 60, 61, 63, 64, 65, 399, 400, 401, 65535, 65536, 69643, 99999, 100000, 100001, 131071, 131072,
 		impl.CheckSize - 1, impl.CheckSize, impl.PolyLimit - 1, impl.PolyLimit,
 		impl.MaxValue - 1, impl.MaxValue, impl.MaxValue + 1,
@@ -138,6 +159,7 @@ func textPool() []string {
 		"none", "None", "1,2", "1,,2", ",", "none,1", strings.Repeat("1,", 63) + "1", strings.Repeat("1,", 64) + "1",
 		"10,3,1", "10,10,1", "100000,99999,99999", "100001,1,1", "2,0,0", "1,0,0", "10,3", "10,3,1,0", "10,03,1",
 		"10", "01101001", strings.Repeat("0", 64), strings.Repeat("1", 64), strings.Repeat("0110100110010110", 4), strings.Repeat("1", 63), strings.Repeat("0", 128),
+		"010101", "111111", "0101010", strings.Repeat("01", 25), strings.Repeat("1", 50), strings.Repeat("0", 51), "0110 ", "０１",
 	}
 }
 
@@ -208,6 +230,16 @@ func fractionListPool() [][]impl.Fraction {
 	}
 }
 
+// lawPool has, besides the laws of someLaws and wrongLaws, laws with spare
+// capacity.
+func lawPool() []impl.Law {
+	spare, none := evenLaw(valuesFrom(0, 1, 64)), impl.Law{Values: repeated[int64](0, 0), Chances: repeated(part(1, 1), 0)}
+	spare.Values = append(make([]int64, 0, 70), spare.Values...)
+	spare.Chances = append(make([]impl.Fraction, 0, 70), spare.Chances...)
+	list := []impl.Law{spare, none, {Values: repeated[int64](3, 1), Chances: repeated(part(1, 1), 1)}, {Values: repeated[int64](3, 2), Chances: repeated(part(1, 2), 2)}}
+	return slices.Concat(list, someLaws()[:40], wrongLaws())
+}
+
 func poolOf[T any](list []T) []reflect.Value {
 	var pool []reflect.Value
 	for _, x := range list {
@@ -221,7 +253,7 @@ func argumentPool(t *testing.T, kind reflect.Type) []reflect.Value {
 	for _, pool := range [][]reflect.Value{
 		poolOf(numberPool()), poolOf(textPool()), poolOf(fractionPool()),
 		poolOf(numberListPool()), poolOf(fractionListPool()), poolOf(registerPool()), poolOf(congruencePool()),
-		poolOf(streamsPool()),
+		poolOf(streamsPool()), poolOf(lawPool()),
 	} {
 		if pool[0].Type() == kind {
 			return pool
@@ -237,8 +269,9 @@ func allArguments(t *testing.T, kind reflect.Type) [][]reflect.Value {
 	lists := [][]reflect.Value{nil}
 	for i := range kind.NumIn() {
 		var longer [][]reflect.Value
+		pool := argumentPool(t, kind.In(i))
 		for _, list := range lists {
-			for _, argument := range argumentPool(t, kind.In(i)) {
+			for _, argument := range pool {
 				longer = append(longer, append(slices.Clone(list), argument))
 			}
 		}
@@ -247,15 +280,24 @@ func allArguments(t *testing.T, kind reflect.Type) [][]reflect.Value {
 	return lists
 }
 
-// wholeCopy copies an argument with its spare capacity.
+// wholeCopy copies an argument with the spare capacity of its lists.
 func wholeCopy(v reflect.Value) reflect.Value {
-	if v.Kind() != reflect.Slice {
-		return v
+	whole := reflect.New(v.Type()).Elem()
+	switch v.Kind() {
+	case reflect.Slice:
+		all := v.Slice(0, v.Cap())
+		whole.Set(reflect.MakeSlice(v.Type(), all.Len(), all.Len()))
+		for i := range all.Len() {
+			whole.Index(i).Set(wholeCopy(all.Index(i)))
+		}
+	case reflect.Struct:
+		for i := range v.NumField() {
+			whole.Field(i).Set(wholeCopy(v.Field(i)))
+		}
+	default:
+		whole.Set(v)
 	}
-	whole := v.Slice(0, v.Cap())
-	list := reflect.MakeSlice(v.Type(), whole.Len(), whole.Len())
-	reflect.Copy(list, whole)
-	return list
+	return whole
 }
 
 func valuesOf(list []reflect.Value) []any {
@@ -270,12 +312,20 @@ func isNothing(v reflect.Value) bool {
 	return v.IsZero() || v.Kind() == reflect.Slice && v.Len() == 0
 }
 
-func spoil(results []reflect.Value) {
-	for _, v := range results {
-		if v.Kind() == reflect.Slice {
-			for i := range v.Len() {
-				v.Index(i).SetInt(99)
-			}
+// spoil changes all numbers in the lists of a result.
+func spoil(v reflect.Value) {
+	switch v.Kind() {
+	case reflect.Slice:
+		for i := range v.Len() {
+			spoil(v.Index(i))
+		}
+	case reflect.Struct:
+		for i := range v.NumField() {
+			spoil(v.Field(i))
+		}
+	case reflect.Int64:
+		if v.CanSet() {
+			v.SetInt(99)
 		}
 	}
 }
@@ -294,7 +344,9 @@ func checkConventions(t *testing.T, f listed, arguments []reflect.Value) {
 	}
 	// Two calls share no memory, so that spoiling one result changes neither
 	// an argument nor what the next call returns.
-	spoil(first)
+	for _, v := range first {
+		spoil(v)
+	}
 	if third := call.Call(arguments); !reflect.DeepEqual(valuesOf(again), valuesOf(third)) {
 		t.Errorf("%s%v: a change to its result lasts", f.name, valuesOf(arguments))
 	}
@@ -335,6 +387,9 @@ func TestPromise1Congruences(t *testing.T) { checkPromise1(t, congruenceFunction
 // Promise 1, as far as it speaks of chapter 4.
 func TestPromise1Combiners(t *testing.T) { checkPromise1(t, combinerFunctions()) }
 
+// Promise 1, as far as it speaks of chapter 5.
+func TestPromise1Tests(t *testing.T) { checkPromise1(t, testFunctions()) }
+
 func TestPromise1LongArguments(t *testing.T) {
 	long := strings.Repeat("1", 1<<20)
 	commas := strings.Repeat("1,", 1<<20)
@@ -360,6 +415,7 @@ func TestPromise1LongArguments(t *testing.T) {
 		}
 	}
 	checkLongTables(t, long)
+	checkLongLaws(t, long)
 	if _, ok := impl.CheckOf(0, long); !ok {
 		t.Error("CheckOf fails for a long text")
 	}
@@ -394,5 +450,29 @@ func checkLongTables(t *testing.T, long string) {
 	}
 	if _, ok := impl.CombineBits("01", make([]string, 1<<20)); ok {
 		t.Error("many streams are accepted")
+	}
+}
+
+func checkLongLaws(t *testing.T, long string) {
+	t.Helper()
+	values, chances := repeated[int64](1, 1<<20), repeated(part(1, 1<<20), 1<<20)
+	for i := range values {
+		values[i] = int64(i)
+	}
+	l := impl.Law{Values: values, Chances: chances}
+	_, mean := impl.MeanOf(l)
+	_, variance := impl.VarianceOf(l)
+	_, joined := impl.JoinLaws(l, l)
+	_, text := impl.LawText(l)
+	if impl.ValidLaw(l) || mean || variance || joined || text {
+		t.Error("a long law is accepted")
+	}
+	_, law := impl.PatternLaw(50, long)
+	_, run := impl.LongestRun(long)
+	_, pattern := impl.CountPattern("1", long)
+	_, places := impl.CountPattern(long, "1")
+	_, levels := impl.TestLevels(long)
+	if law || run || pattern || places || levels {
+		t.Errorf("a text with %d bytes is accepted as bits or as a pattern", len(long))
 	}
 }
