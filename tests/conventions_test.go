@@ -136,12 +136,32 @@ func testFunctions() []listed {
 	}
 }
 
+func drawingFunctions() []listed {
+	return []listed{
+		{"IsDyadic", impl.IsDyadic, false},
+		{"TreeLeaves", impl.TreeLeaves, true},
+		{"RollTree", impl.RollTree, true},
+		{"TreeCost", impl.TreeCost, true},
+		{"AliasTable", impl.AliasTable, true},
+		{"AliasFace", impl.AliasFace, true},
+		{"RollReject", impl.RollReject, true},
+		{"RejectCost", impl.RejectCost, true},
+		{"RollDice", impl.RollDice, true},
+		{"DiceCost", impl.DiceCost, true},
+		{"CoinFrom", impl.CoinFrom, true},
+		{"FairPairs", impl.FairPairs, true},
+		{"FairDeep", impl.FairDeep, true},
+		{"FairBlock", impl.FairBlock, true},
+		{"PairCost", impl.PairCost, true},
+	}
+}
+
 func numberPool() []int64 {
 	return []int64{
 		math.MinInt64, math.MinInt64 + 1, -impl.MaxPart - 1, -impl.MaxPart,
-		-impl.MaxValue - 1, -impl.MaxValue, -400, -2, -1, 0, 1, 2, 3, 4, 6, 7, 10, 12, 13, 15, 16, 17, 20, 21, 32, 50, 51,
+		-impl.MaxValue - 1, -impl.MaxValue, -400, -2, -1, 0, 1, 2, 3, 4, 6, 7, 8, 9, 10, 12, 13, 15, 16, 17, 20, 21, 32, 33, 50, 51,
 		59, 60, 61, 63, 64, 65, 399, 400, 401, 65535, 65536, 69643, 99999, 100000, 100001, 131071, 131072,
-		impl.CheckSize - 1, impl.CheckSize, impl.PolyLimit - 1, impl.PolyLimit,
+		impl.CheckSize - 1, impl.CheckSize, 999999, 1000000, 1000001, impl.PolyLimit - 1, impl.PolyLimit,
 		impl.MaxValue - 1, impl.MaxValue, impl.MaxValue + 1,
 		impl.MaxPart - 1, impl.MaxPart, impl.MaxPart + 1, math.MaxInt64 - 1, math.MaxInt64,
 	}
@@ -167,6 +187,7 @@ func fractionPool() []impl.Fraction {
 	return []impl.Fraction{
 		{}, {Num: 0, Den: 1}, {Num: 0, Den: 2}, {Num: 1, Den: 0}, {Num: 1, Den: 1}, {Num: -1, Den: 1},
 		{Num: 1, Den: 2}, {Num: -1, Den: 2}, {Num: 1, Den: -2}, {Num: -1, Den: -2}, {Num: 2, Den: 4}, {Num: 2, Den: 3},
+		{Num: 1, Den: 1000000000}, {Num: 1, Den: 1000000001}, {Num: 1000000000, Den: 1000000001}, {Num: 3, Den: 2},
 		{Num: impl.MaxPart, Den: 1}, {Num: -impl.MaxPart, Den: 1}, {Num: 1, Den: impl.MaxPart}, {Num: -1, Den: impl.MaxPart},
 		{Num: impl.MaxPart, Den: impl.MaxPart - 1}, {Num: impl.MaxPart - 1, Den: impl.MaxPart},
 		{Num: impl.MaxPart, Den: impl.MaxPart}, {Num: impl.MaxPart + 1, Den: 1}, {Num: 1, Den: impl.MaxPart + 1},
@@ -211,6 +232,7 @@ func numberListPool() [][]int64 {
 		{impl.MaxValue, -impl.MaxValue}, {impl.MaxValue + 1}, {1, -impl.MaxValue - 1}, {math.MinInt64}, {math.MaxInt64},
 		{1, 4, 3, 0}, {1, 1, 1, 1}, {0, 1, 2}, {0, 99999, 0, 99999, 5}, {1, 4, 3, 100000}, {1, 4, -3, 0}, repeated[int64](99999, 63),
 		{5}, {17}, {2, 16}, {2, 3, 4}, repeated[int64](16, 6), repeated[int64](17, 6), repeated[int64](0, 6), repeated[int64](1, 7),
+		{3, 4, 1}, {1, 5, 0}, {0, 1}, {3, 4}, {1}, {4096}, {8192}, {-1, 5}, {1000000}, {999999, 2}, repeated[int64](1, 16), repeated[int64](1, 17), repeated[int64](256, 16), repeated[int64](512, 16), repeated[int64](62500, 16), {math.MaxInt64, math.MaxInt64, 6},
 	}
 }
 
@@ -390,6 +412,9 @@ func TestPromise1Combiners(t *testing.T) { checkPromise1(t, combinerFunctions())
 // Promise 1, as far as it speaks of chapter 5.
 func TestPromise1Tests(t *testing.T) { checkPromise1(t, testFunctions()) }
 
+// Promise 1, as far as it speaks of chapter 6.
+func TestPromise1Drawing(t *testing.T) { checkPromise1(t, drawingFunctions()) }
+
 func TestPromise1LongArguments(t *testing.T) {
 	long := strings.Repeat("1", 1<<20)
 	commas := strings.Repeat("1,", 1<<20)
@@ -416,6 +441,7 @@ func TestPromise1LongArguments(t *testing.T) {
 	}
 	checkLongTables(t, long)
 	checkLongLaws(t, long)
+	checkLongDraws(t, long)
 	if _, ok := impl.CheckOf(0, long); !ok {
 		t.Error("CheckOf fails for a long text")
 	}
@@ -474,5 +500,28 @@ func checkLongLaws(t *testing.T, long string) {
 	_, levels := impl.TestLevels(long)
 	if law || run || pattern || places || levels {
 		t.Errorf("a text with %d bytes is accepted as bits or as a pattern", len(long))
+	}
+}
+
+func checkLongDraws(t *testing.T, long string) {
+	t.Helper()
+	weights := repeated[int64](1, 1<<12)
+	_, leaves := impl.TreeLeaves(weights)
+	_, _, face := impl.RollTree(weights, "")
+	_, cost := impl.TreeCost(weights)
+	_, _, columns := impl.AliasTable(weights)
+	_, other := impl.AliasFace(weights, 0, 0)
+	if impl.IsDyadic(weights) || leaves || face || cost || columns || other {
+		t.Error("a long list is accepted as weights")
+	}
+	_, _, tree := impl.RollTree([]int64{1, 1}, long)
+	_, _, reject := impl.RollReject(2, long)
+	_, _, dice := impl.RollDice(2, long)
+	_, _, coin := impl.CoinFrom(part(1, 2), long)
+	_, pairs := impl.FairPairs(long)
+	_, deep := impl.FairDeep(long, 8)
+	_, block := impl.FairBlock(long)
+	if tree || reject || dice || coin || pairs || deep || block {
+		t.Errorf("a text with %d bytes is accepted as bits", len(long))
 	}
 }
