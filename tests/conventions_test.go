@@ -156,10 +156,33 @@ func drawingFunctions() []listed {
 	}
 }
 
+func shuffleFunctions() []listed {
+	return []listed{
+		{"IsOrder", impl.IsOrder, false},
+		{"ShuffleBy", impl.ShuffleBy, true},
+		{"ChoicesOf", impl.ChoicesOf, true},
+		{"CyclicBy", impl.CyclicBy, true},
+		{"NaiveBy", impl.NaiveBy, true},
+		{"NaiveCounts", impl.NaiveCounts, true},
+		{"RankOrder", impl.RankOrder, true},
+		{"OrderAt", impl.OrderAt, true},
+		{"CyclesOf", impl.CyclesOf, true},
+		{"CountCycles", impl.CountCycles, true},
+		{"RisingOf", impl.RisingOf, true},
+		{"CountRising", impl.CountRising, true},
+		{"RiffleChance", impl.RiffleChance, true},
+		{"RiffleDistance", impl.RiffleDistance, true},
+		{"ReservoirBy", impl.ReservoirBy, true},
+		{"SampleBy", impl.SampleBy, true},
+		{"RankSet", impl.RankSet, true},
+		{"SetAt", impl.SetAt, true},
+	}
+}
+
 func numberPool() []int64 {
 	return []int64{
 		math.MinInt64, math.MinInt64 + 1, -impl.MaxPart - 1, -impl.MaxPart,
-		-impl.MaxValue - 1, -impl.MaxValue, -400, -2, -1, 0, 1, 2, 3, 4, 6, 7, 8, 9, 10, 12, 13, 15, 16, 17, 20, 21, 32, 33, 50, 51,
+		-impl.MaxValue - 1, -impl.MaxValue, -400, -2, -1, 0, 1, 2, 3, 4, 5, 6, 7, 8, 9, 10, 12, 13, 15, 16, 17, 20, 21, 32, 33, 50, 51,
 		59, 60, 61, 63, 64, 65, 399, 400, 401, 65535, 65536, 69643, 99999, 100000, 100001, 131071, 131072,
 		impl.CheckSize - 1, impl.CheckSize, 999999, 1000000, 1000001, impl.PolyLimit - 1, impl.PolyLimit,
 		impl.MaxValue - 1, impl.MaxValue, impl.MaxValue + 1,
@@ -233,6 +256,8 @@ func numberListPool() [][]int64 {
 		{1, 4, 3, 0}, {1, 1, 1, 1}, {0, 1, 2}, {0, 99999, 0, 99999, 5}, {1, 4, 3, 100000}, {1, 4, -3, 0}, repeated[int64](99999, 63),
 		{5}, {17}, {2, 16}, {2, 3, 4}, repeated[int64](16, 6), repeated[int64](17, 6), repeated[int64](0, 6), repeated[int64](1, 7),
 		{3, 4, 1}, {1, 5, 0}, {0, 1}, {3, 4}, {1}, {4096}, {8192}, {-1, 5}, {1000000}, {999999, 2}, repeated[int64](1, 16), repeated[int64](1, 17), repeated[int64](256, 16), repeated[int64](512, 16), repeated[int64](62500, 16), {math.MaxInt64, math.MaxInt64, 6},
+		{2, 1, 0}, {2, 0, 3, 1}, {0, 2, 4}, []int64{1, 0, 2}[:2], valuesFrom(0, 1, 12), reversed(valuesFrom(0, 1, 12)), valuesFrom(0, 1, 13)[:12], valuesFrom(0, 1, 13), reversed(valuesFrom(0, 1, 12))[:11], repeated[int64](0, 11), repeated[int64](0, 12), repeated[int64](0, 13),
+		repeated[int64](11, 12), valuesFrom(0, 1, 60), valuesFrom(1, 1, 60), valuesFrom(59, 1, 1),
 	}
 }
 
@@ -415,6 +440,9 @@ func TestPromise1Tests(t *testing.T) { checkPromise1(t, testFunctions()) }
 // Promise 1, as far as it speaks of chapter 6.
 func TestPromise1Drawing(t *testing.T) { checkPromise1(t, drawingFunctions()) }
 
+// Promise 1, as far as it speaks of chapter 7.
+func TestPromise1Shuffles(t *testing.T) { checkPromise1(t, shuffleFunctions()) }
+
 func TestPromise1LongArguments(t *testing.T) {
 	long := strings.Repeat("1", 1<<20)
 	commas := strings.Repeat("1,", 1<<20)
@@ -442,6 +470,7 @@ func TestPromise1LongArguments(t *testing.T) {
 	checkLongTables(t, long)
 	checkLongLaws(t, long)
 	checkLongDraws(t, long)
+	checkLongOrders(t)
 	if _, ok := impl.CheckOf(0, long); !ok {
 		t.Error("CheckOf fails for a long text")
 	}
@@ -523,5 +552,28 @@ func checkLongDraws(t *testing.T, long string) {
 	_, block := impl.FairBlock(long)
 	if tree || reject || dice || coin || pairs || deep || block {
 		t.Errorf("a text with %d bytes is accepted as bits", len(long))
+	}
+}
+
+func checkLongOrders(t *testing.T) {
+	t.Helper()
+	for _, list := range [][]int64{make([]int64, 1<<20), valuesFrom(0, 1, 1<<20)} {
+		_, shuffled := impl.ShuffleBy(list)
+		_, cyclic := impl.CyclicBy(list)
+		_, naive := impl.NaiveBy(list)
+		_, kept := impl.ReservoirBy(12, list)
+		_, sample := impl.SampleBy(12, list)
+		if shuffled || cyclic || naive || kept || sample {
+			t.Error("a long list is accepted as choices")
+		}
+		_, choices := impl.ChoicesOf(list)
+		_, rank := impl.RankOrder(list)
+		_, cycles := impl.CyclesOf(list)
+		_, rising := impl.RisingOf(list)
+		_, chance := impl.RiffleChance(list, 5)
+		_, set := impl.RankSet(60, list)
+		if impl.IsOrder(list) || choices || rank || cycles || rising || chance || set {
+			t.Error("a long list is accepted as an order or as a set")
+		}
 	}
 }
