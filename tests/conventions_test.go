@@ -179,15 +179,41 @@ func shuffleFunctions() []listed {
 	}
 }
 
+func hiddenFunctions() []listed {
+	return []listed{
+		{"ValidLinear", impl.ValidLinear, false},
+		{"StepLinear", impl.StepLinear, true},
+		{"LinearBits", impl.LinearBits, true},
+		{"JumpLinear", impl.JumpLinear, true},
+		{"BackLinear", impl.BackLinear, true},
+		{"OfRegister", impl.OfRegister, true},
+		{"OfXorshift", impl.OfXorshift, true},
+		{"OutputRank", impl.OutputRank, true},
+		{"StatesBehind", impl.StatesBehind, true},
+		{"PredictBit", impl.PredictBit, true},
+		{"RegisterOf", impl.RegisterOf, true},
+		{"ValidTemper", impl.ValidTemper, false},
+		{"TemperWord", impl.TemperWord, true},
+		{"UntemperWord", impl.UntemperWord, true},
+		{"SeedsBehind", impl.SeedsBehind, true},
+	}
+}
+
 func numberPool() []int64 {
 	return []int64{
 		math.MinInt64, math.MinInt64 + 1, -impl.MaxPart - 1, -impl.MaxPart,
 		-impl.MaxValue - 1, -impl.MaxValue, -400, -2, -1, 0, 1, 2, 3, 4, 5, 6, 7, 8, 9, 10, 12, 13, 15, 16, 17, 20, 21, 32, 33, 50, 51,
-		59, 60, 61, 63, 64, 65, 399, 400, 401, 65535, 65536, 69643, 99999, 100000, 100001, 131071, 131072,
+		59, 60, 61, 63, 64, 65, 255, 256, 399, 400, 401, 9999, 10000, 10001, 65535, 65536, 69643, 99999, 100000, 100001, 131071, 131072,
 		impl.CheckSize - 1, impl.CheckSize, 999999, 1000000, 1000001, impl.PolyLimit - 1, impl.PolyLimit,
 		impl.MaxValue - 1, impl.MaxValue, impl.MaxValue + 1,
 		impl.MaxPart - 1, impl.MaxPart, impl.MaxPart + 1, math.MaxInt64 - 1, math.MaxInt64,
 	}
+}
+
+// shortNumberPool is for functions with so many numbers that the lists of
+// arguments from numberPool would be too many.
+func shortNumberPool() []int64 {
+	return []int64{math.MinInt64, -impl.MaxPart, -1, 0, 1, 2, 3, 8, 15, 16, 17, 64, 65535, 65536, math.MaxInt64}
 }
 
 func textPool() []string {
@@ -287,6 +313,27 @@ func lawPool() []impl.Law {
 	return slices.Concat(list, someLaws()[:40], wrongLaws())
 }
 
+func machinePool() []impl.Linear {
+	spare := turning(3, 5)
+	spare.Rows = append(make([]int64, 0, 20), spare.Rows...)
+	wrong := []impl.Linear{
+		{Width: 2, Rows: []int64{1, 1, 9}[:1], Out: 1}, {Width: 2, Rows: []int64{1, 2, 9}, Out: 1}, {Width: 2, Rows: []int64{1, 2, 9}[:2], Out: 4},
+	}
+	list := []impl.Linear{spare, turning(1, 1), turning(1, 0), turning(16, 1), stacked(16, 65535), tapped(3, 3), tapped(16, 4107), forgetful(16), forgetful(4)}
+	return slices.Concat(list, wrong, wrongMachines()[:18])
+}
+
+func seenPool() [][]impl.Seen {
+	mixed := append(make([]impl.Seen, 0, 80), impl.Seen{At: maxAt, Bit: 1}, impl.Seen{At: 3}, impl.Seen{At: 0, Bit: 1})
+	return [][]impl.Seen{
+		nil, {}, {{}}, {{Bit: 1}}, {{At: 2, Bit: 1}}, {{At: 0, Bit: 1}, {At: 3, Bit: 1}}, {{At: 5, Bit: 1}, {At: 5}}, {{At: 5, Bit: 1}, {At: 5, Bit: 1}},
+		mixed, {{At: maxAt}, {At: maxAt - 1}}, {{At: maxAt + 1}}, {{At: -1}}, {{Bit: 2}}, {{Bit: -1}}, {{At: 16, Bit: 1}, {At: 17, Bit: math.MaxInt64}}, {{At: math.MinInt64, Bit: 1}},
+		{{At: math.MaxInt64}}, repeated(impl.Seen{At: maxAt}, 64), repeated(impl.Seen{At: 7, Bit: 1}, 64), repeated(impl.Seen{At: 1}, 65), repeated(impl.Seen{At: 1}, 0),
+	}
+}
+
+func temperPool() []impl.Temper { return slices.Concat(someTempers(), wrongTempers()[:30]) }
+
 func poolOf[T any](list []T) []reflect.Value {
 	var pool []reflect.Value
 	for _, x := range list {
@@ -301,6 +348,7 @@ func argumentPool(t *testing.T, kind reflect.Type) []reflect.Value {
 		poolOf(numberPool()), poolOf(textPool()), poolOf(fractionPool()),
 		poolOf(numberListPool()), poolOf(fractionListPool()), poolOf(registerPool()), poolOf(congruencePool()),
 		poolOf(streamsPool()), poolOf(lawPool()),
+		poolOf(machinePool()), poolOf(seenPool()), poolOf(temperPool()),
 	} {
 		if pool[0].Type() == kind {
 			return pool
@@ -317,6 +365,9 @@ func allArguments(t *testing.T, kind reflect.Type) [][]reflect.Value {
 	for i := range kind.NumIn() {
 		var longer [][]reflect.Value
 		pool := argumentPool(t, kind.In(i))
+		if kind.NumIn() > 3 && kind.In(i).Kind() == reflect.Int64 {
+			pool = poolOf(shortNumberPool())
+		}
 		for _, list := range lists {
 			for _, argument := range pool {
 				longer = append(longer, append(slices.Clone(list), argument))
@@ -443,6 +494,9 @@ func TestPromise1Drawing(t *testing.T) { checkPromise1(t, drawingFunctions()) }
 // Promise 1, as far as it speaks of chapter 7.
 func TestPromise1Shuffles(t *testing.T) { checkPromise1(t, shuffleFunctions()) }
 
+// Promise 1, as far as it speaks of chapter 8.
+func TestPromise1Hidden(t *testing.T) { checkPromise1(t, hiddenFunctions()) }
+
 func TestPromise1LongArguments(t *testing.T) {
 	long := strings.Repeat("1", 1<<20)
 	commas := strings.Repeat("1,", 1<<20)
@@ -471,6 +525,7 @@ func TestPromise1LongArguments(t *testing.T) {
 	checkLongLaws(t, long)
 	checkLongDraws(t, long)
 	checkLongOrders(t)
+	checkLongMachines(t)
 	if _, ok := impl.CheckOf(0, long); !ok {
 		t.Error("CheckOf fails for a long text")
 	}
@@ -575,5 +630,28 @@ func checkLongOrders(t *testing.T) {
 		if impl.IsOrder(list) || choices || rank || cycles || rising || chance || set {
 			t.Error("a long list is accepted as an order or as a set")
 		}
+	}
+}
+
+func checkLongMachines(t *testing.T) {
+	t.Helper()
+	long := impl.Linear{Width: 16, Rows: make([]int64, 1<<20), Out: 1}
+	for _, width := range []int64{16, 1 << 20} {
+		long.Width = width
+		_, _, step := impl.StepLinear(long, 0)
+		_, jump := impl.JumpLinear(long, 0, 1)
+		_, back := impl.BackLinear(long, 0)
+		_, rank := impl.OutputRank(long)
+		_, _, behind := impl.StatesBehind(long, nil)
+		_, _, register := impl.RegisterOf(long, 0)
+		if impl.ValidLinear(long) || step || jump || back || rank || behind || register {
+			t.Errorf("a machine with the width %d and %d rows is accepted", width, len(long.Rows))
+		}
+	}
+	_, _, behind := impl.StatesBehind(turning(16, 1), make([]impl.Seen, 1<<20))
+	_, predicted := impl.PredictBit(turning(16, 1), make([]impl.Seen, 1<<20), 0)
+	_, seeds := impl.SeedsBehind(1, 0, make([]int64, 1<<20))
+	if behind || predicted || seeds {
+		t.Error("a long list is accepted as outputs that are seen")
 	}
 }

@@ -91,23 +91,65 @@ func TestValidRegisters(t *testing.T) {
 	}
 }
 
-// checkWalk compares some steps with slow ones, and jumps with both.
-func checkWalk(t *testing.T, r impl.Register, state int64, steps int) {
+// A walker is a machine with all that the program tells of its steps, and with
+// slow ones.
+type walker struct {
+	name string
+	slow func(state int64) (next, output int64)
+	step func(state int64) (next, output int64, ok bool)
+	bits func(state, count int64) (string, bool)
+	jump func(state, n int64) (int64, bool)
+}
+
+func registerWalker(r impl.Register) walker {
+	return walker{
+		fmt.Sprint("register ", r),
+		func(state int64) (int64, int64) { return slowStep(r, state) },
+		func(state int64) (int64, int64, bool) { return impl.StepRegister(r, state) },
+		func(state, count int64) (string, bool) { return impl.RegisterBits(r, state, count) },
+		func(state, n int64) (int64, bool) { return impl.JumpRegister(r, state, n) },
+	}
+}
+
+// check compares some steps with slow ones, and jumps and outputs with both.
+func (w walker) check(t *testing.T, state int64, steps int64) {
 	t.Helper()
-	what := fmt.Sprint("register ", r, " at ", state)
-	bits, at := "", state
+	what := fmt.Sprint(w.name, " at ", state)
+	text, at := "", state
 	for n := range steps {
-		far, ok := impl.JumpRegister(r, state, int64(n))
+		far, ok := w.jump(state, n)
 		expect(t, fmt.Sprint(what, ", jump ", n), far, ok, at)
 		if n <= impl.MaxBits {
-			got, ok := impl.RegisterBits(r, state, int64(n))
-			expect(t, what+", bits", got, ok, bits)
+			got, ok := w.bits(state, n)
+			expect(t, what+", bits", got, ok, text)
 		}
-		wantNext, wantBit := slowStep(r, at)
-		next, bit, ok := impl.StepRegister(r, at)
+		wantNext, wantBit := w.slow(at)
+		next, bit, ok := w.step(at)
 		expect(t, what+", state", next, ok, wantNext)
 		expect(t, what+", output", bit, ok, wantBit)
-		bits, at = bits+string(rune('0'+wantBit)), wantNext
+		text, at = text+string(rune('0'+wantBit)), wantNext
+	}
+}
+
+// checkJumps requires that jumps of any length lead where steps lead, as the
+// cycle tells.
+func (w walker) checkJumps(t *testing.T, state int64, d *draws) {
+	t.Helper()
+	what := fmt.Sprint(w.name, " at ", state)
+	before, length := slowCycle(func(s int64) int64 { next, _ := w.slow(s); return next }, state)
+	for _, n := range []int64{0, 1, 15, 16, 65535, 65536, 65537, maxJump / 3, maxJump - 1, maxJump, d.below(maxJump)} {
+		want, steps := state, n
+		if n > before {
+			steps = before + (n-before)%length
+		}
+		for range steps {
+			want, _ = w.slow(want)
+		}
+		got, ok := w.jump(state, n)
+		expect(t, fmt.Sprint(what, ", jump ", n), got, ok, want)
+		half, _ := w.jump(state, n/2)
+		whole, ok := w.jump(half, n-n/2)
+		expect(t, fmt.Sprint(what, ", two jumps ", n), whole, ok, got)
 	}
 }
 
@@ -115,17 +157,17 @@ func checkWalk(t *testing.T, r impl.Register, state int64, steps int) {
 func TestRegisterWalks(t *testing.T) {
 	for _, r := range smallRegisters(4) {
 		for state := range int64(1) << r.Width {
-			checkWalk(t, r, state, 40)
+			registerWalker(r).check(t, state, 40)
 		}
 	}
 	d := draws(22)
 	for _, r := range wideRegisters() {
 		for _, state := range someStates(r, &d) {
-			checkWalk(t, r, state, 60)
+			registerWalker(r).check(t, state, 60)
 		}
 	}
-	checkWalk(t, impl.Register{Width: 16, Taps: 4107}, 1, 402)
-	checkWalk(t, impl.Register{}, 0, 402)
+	registerWalker(impl.Register{Width: 16, Taps: 4107}).check(t, 1, 402)
+	registerWalker(impl.Register{}).check(t, 0, 402)
 }
 
 // Promise 3: jumps of any length lead where steps lead, as the cycle tells.
@@ -133,21 +175,7 @@ func TestRegisterJumps(t *testing.T) {
 	d := draws(23)
 	for _, r := range append(smallRegisters(5), wideRegisters()...) {
 		for _, state := range someStates(r, &d) {
-			before, length := slowCycle(func(s int64) int64 { next, _ := slowStep(r, s); return next }, state)
-			for _, n := range []int64{0, 1, 65535, 65536, 65537, maxJump / 3, maxJump - 1, maxJump, d.below(maxJump)} {
-				want, steps := state, n
-				if n > before {
-					steps = before + (n-before)%length
-				}
-				for range steps {
-					want, _ = slowStep(r, want)
-				}
-				got, ok := impl.JumpRegister(r, state, n)
-				expect(t, fmt.Sprint("register ", r, " at ", state, ", jump ", n), got, ok, want)
-				half, _ := impl.JumpRegister(r, state, n/2)
-				whole, ok := impl.JumpRegister(r, half, n-n/2)
-				expect(t, fmt.Sprint("register ", r, " at ", state, ", two jumps ", n), whole, ok, got)
-			}
+			registerWalker(r).checkJumps(t, state, &d)
 		}
 	}
 }
