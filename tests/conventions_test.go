@@ -5,6 +5,7 @@ import (
 	"reflect"
 	"slices"
 	"strings"
+	"sync"
 	"testing"
 
 	"loop.example/g01121/impl"
@@ -199,6 +200,27 @@ func hiddenFunctions() []listed {
 	}
 }
 
+func walkFunctions() []listed {
+	return []listed{
+		{"IsSource", impl.IsSource, false},
+		{"DistanceOf", impl.DistanceOf, true},
+		{"GreatestOf", impl.GreatestOf, true},
+		{"CollisionOf", impl.CollisionOf, true},
+		{"ExtractBy", impl.ExtractBy, true},
+		{"ExtractDistance", impl.ExtractDistance, true},
+		{"AverageDistance", impl.AverageDistance, true},
+		{"BestRows", impl.BestRows, true},
+		{"ValidWalk", impl.ValidWalk, false},
+		{"StepWalk", impl.StepWalk, true},
+		{"RunWalk", impl.RunWalk, true},
+		{"ContractionOf", impl.ContractionOf, true},
+		{"SettledOf", impl.SettledOf, true},
+		{"IsReversible", impl.IsReversible, false},
+		{"HittingTimes", impl.HittingTimes, true},
+		{"MixingSteps", impl.MixingSteps, true},
+	}
+}
+
 func numberPool() []int64 {
 	return []int64{
 		math.MinInt64, math.MinInt64 + 1, -impl.MaxPart - 1, -impl.MaxPart,
@@ -300,6 +322,8 @@ func fractionListPool() [][]impl.Fraction {
 		nil, {}, {{Num: 1, Den: 6}, {Num: 1, Den: 3}}, repeated(impl.Fraction{Num: 1, Den: 64}, 64),
 		repeated(impl.Fraction{Num: 0, Den: 1}, 65), {{}}, {{Num: impl.MaxPart, Den: 1}, {Num: 1, Den: 1}},
 		{{Num: math.MinInt64, Den: 1}}, {{Num: 1, Den: 2}, {Num: 2, Den: 4}},
+		repeated(part(1, 1), 1), repeated(part(1, 2), 2), repeated(part(1, 4), 4), tiltedChances(6), tiltedChances(8), repeated(part(1, 16), 16), repeated(part(1, 17), 17),
+		{part(4, 3), part(-1, 3)}, {part(1, 2), part(1, 3)},
 	}
 }
 
@@ -332,6 +356,20 @@ func seenPool() [][]impl.Seen {
 	}
 }
 
+// walkPool has, besides other walks and wrong ones, walks with spare capacity.
+func walkPool() []impl.Walk {
+	spare := impl.Walk{Rows: repeated(repeated(part(1, 2), 2), 2)}
+	mixed := bigWalk(6)
+	for i, row := range mixed.Rows {
+		mixed.Rows[i] = append(make([]impl.Fraction, 0, 9), row...)
+	}
+	list := []impl.Walk{
+		spare, mixed, leadingTo(0), leadingTo(1, 0), leadingTo(0, 1), leadingTo(1, 2, 3, 4, 5, 5), absorbing(4), absorbing(6), balancedWalk(2), balancedWalk(6), bigWalk(4),
+		walkOf([]int64{1, 1}, []int64{1, 0}), walkOf([]int64{maxPart - 1, 1}, []int64{1, 0}),
+	}
+	return append(list, wrongWalks()[:14]...)
+}
+
 func temperPool() []impl.Temper { return slices.Concat(someTempers(), wrongTempers()[:30]) }
 
 func poolOf[T any](list []T) []reflect.Value {
@@ -342,14 +380,19 @@ func poolOf[T any](list []T) []reflect.Value {
 	return pool
 }
 
-func argumentPool(t *testing.T, kind reflect.Type) []reflect.Value {
-	t.Helper()
-	for _, pool := range [][]reflect.Value{
+// argumentPools are made once, as some of them need long searches for primes.
+var argumentPools = sync.OnceValue(func() [][]reflect.Value {
+	return [][]reflect.Value{
 		poolOf(numberPool()), poolOf(textPool()), poolOf(fractionPool()),
 		poolOf(numberListPool()), poolOf(fractionListPool()), poolOf(registerPool()), poolOf(congruencePool()),
 		poolOf(streamsPool()), poolOf(lawPool()),
-		poolOf(machinePool()), poolOf(seenPool()), poolOf(temperPool()),
-	} {
+		poolOf(machinePool()), poolOf(seenPool()), poolOf(temperPool()), poolOf(walkPool()),
+	}
+})
+
+func argumentPool(t *testing.T, kind reflect.Type) []reflect.Value {
+	t.Helper()
+	for _, pool := range argumentPools() {
 		if pool[0].Type() == kind {
 			return pool
 		}
@@ -497,6 +540,9 @@ func TestPromise1Shuffles(t *testing.T) { checkPromise1(t, shuffleFunctions()) }
 // Promise 1, as far as it speaks of chapter 8.
 func TestPromise1Hidden(t *testing.T) { checkPromise1(t, hiddenFunctions()) }
 
+// Promise 1, as far as it speaks of chapter 9.
+func TestPromise1Walks(t *testing.T) { checkPromise1(t, walkFunctions()) }
+
 func TestPromise1LongArguments(t *testing.T) {
 	long := strings.Repeat("1", 1<<20)
 	commas := strings.Repeat("1,", 1<<20)
@@ -526,6 +572,7 @@ func TestPromise1LongArguments(t *testing.T) {
 	checkLongDraws(t, long)
 	checkLongOrders(t)
 	checkLongMachines(t)
+	checkLongWalks(t)
 	if _, ok := impl.CheckOf(0, long); !ok {
 		t.Error("CheckOf fails for a long text")
 	}
@@ -653,5 +700,33 @@ func checkLongMachines(t *testing.T) {
 	_, seeds := impl.SeedsBehind(1, 0, make([]int64, 1<<20))
 	if behind || predicted || seeds {
 		t.Error("a long list is accepted as outputs that are seen")
+	}
+}
+
+func checkLongWalks(t *testing.T) {
+	t.Helper()
+	long := repeated(part(1, 1<<20), 1<<20)
+	_, distance := impl.DistanceOf(long, long)
+	_, greatest := impl.GreatestOf(long)
+	_, collision := impl.CollisionOf(long)
+	_, made := impl.ExtractBy([]int64{1}, long)
+	_, rows := impl.ExtractBy(make([]int64, 1<<20), long[:2])
+	_, average := impl.AverageDistance(1, long)
+	_, _, best := impl.BestRows(1, long)
+	if impl.IsSource(long) || distance || greatest || collision || made || rows || average || best {
+		t.Error("a long list is accepted as chances or as rows")
+	}
+	right := impl.Walk{Rows: repeated(repeated(part(1, 2), 2), 2)}
+	_, next := impl.StepWalk(right, long)
+	_, after := impl.RunWalk(right, long, 30)
+	for _, w := range []impl.Walk{{Rows: make([][]impl.Fraction, 1<<20)}, {Rows: [][]impl.Fraction{long}}, {Rows: [][]impl.Fraction{right.Rows[0], long}}} {
+		_, step := impl.StepWalk(w, right.Rows[0])
+		_, contraction := impl.ContractionOf(w)
+		_, settled := impl.SettledOf(w)
+		_, times := impl.HittingTimes(w, 0)
+		_, mixed := impl.MixingSteps(w, part(1, 2))
+		if impl.ValidWalk(w) || impl.IsReversible(w) || step || contraction || settled || times || mixed || next || after {
+			t.Errorf("a walk with %d rows, or a long one, is accepted", len(w.Rows))
+		}
 	}
 }
