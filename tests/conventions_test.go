@@ -221,6 +221,27 @@ func walkFunctions() []listed {
 	}
 }
 
+func pointFunctions() []listed {
+	return []listed{
+		{"ValidNet", impl.ValidNet, false},
+		{"NetPoints", impl.NetPoints, true},
+		{"QualityOf", impl.QualityOf, true},
+		{"ReversedNet", impl.ReversedNet, true},
+		{"PascalNet", impl.PascalNet, true},
+		{"ScrambleNet", impl.ScrambleNet, true},
+		{"IsPoints", impl.IsPoints, false},
+		{"BoxCounts", impl.BoxCounts, true},
+		{"IsEven", impl.IsEven, false},
+		{"ShiftPoints", impl.ShiftPoints, true},
+		{"StarDistance", impl.StarDistance, true},
+		{"RadicalInverse", impl.RadicalInverse, true},
+		{"HaltonPoint", impl.HaltonPoint, true},
+		{"GridPoints", impl.GridPoints, true},
+		{"GridFigure", impl.GridFigure, true},
+		{"BestGrid", impl.BestGrid, true},
+	}
+}
+
 func numberPool() []int64 {
 	return []int64{
 		math.MinInt64, math.MinInt64 + 1, -impl.MaxPart - 1, -impl.MaxPart,
@@ -306,6 +327,7 @@ func numberListPool() [][]int64 {
 		{3, 4, 1}, {1, 5, 0}, {0, 1}, {3, 4}, {1}, {4096}, {8192}, {-1, 5}, {1000000}, {999999, 2}, repeated[int64](1, 16), repeated[int64](1, 17), repeated[int64](256, 16), repeated[int64](512, 16), repeated[int64](62500, 16), {math.MaxInt64, math.MaxInt64, 6},
 		{2, 1, 0}, {2, 0, 3, 1}, {0, 2, 4}, []int64{1, 0, 2}[:2], valuesFrom(0, 1, 12), reversed(valuesFrom(0, 1, 12)), valuesFrom(0, 1, 13)[:12], valuesFrom(0, 1, 13), reversed(valuesFrom(0, 1, 12))[:11], repeated[int64](0, 11), repeated[int64](0, 12), repeated[int64](0, 13),
 		repeated[int64](11, 12), valuesFrom(0, 1, 60), valuesFrom(1, 1, 60), valuesFrom(59, 1, 1),
+		[]int64{1, 3, 9}[:2], {1, 2, 7}, {1, 3, 5, 12, 24, 33}, {1, 0, 3, 2}, {2, 3, 5, 36},
 	}
 }
 
@@ -370,6 +392,31 @@ func walkPool() []impl.Walk {
 	return append(list, wrongWalks()[:14]...)
 }
 
+// netPool has, besides other nets and wrong ones, nets with spare capacity.
+func netPool() []impl.Net {
+	d := draws(1031)
+	list := []impl.Net{
+		{Matrices: repeated(repeated[int64](1, 0), 4)}, {Bits: 1, Matrices: repeated(repeated[int64](1, 1), 4)}, {Bits: 2, Matrices: [][]int64{[]int64{1, 2, 3}[:2], []int64{3, 1, 2}[:2]}},
+		{Bits: 3, Matrices: [][]int64{{1, 2, 4}, {7, 2, 4}}}, {Bits: 6, Matrices: repeated(repeated[int64](0, 6), 2)}, goodNet(5, 3, &d), goodNet(6, 4, &d), drawnNet(6, 4, &d), drawnNet(3, 1, &d),
+	}
+	return append(list, wrongNets()[:14]...)
+}
+
+// pointListPool has points with few and with many bits, some of them with spare
+// capacity, and wrong ones.
+func pointListPool() [][][]int64 {
+	d := draws(1032)
+	list := [][][]int64{
+		repeated([]int64{0}, 64), repeated(repeated[int64](1, 2), 3), {{0, 0}, {1, 2}, {2, 1}, {3, 3}}, {[]int64{5, 60, 9}[:2], {63, 0}}, repeated([]int64{0, 0}, 65),
+		{{1, 0, 1}, {0, 1, 1}}, drawnScatter(64, 1, 6, &d).points, drawnScatter(64, 2, 6, &d).points, drawnScatter(64, 4, 6, &d).points, drawnScatter(2, 3, 2, &d).points,
+		{{-1}}, {{64}}, {{1, 2}, {1}}, {{1}, {1, 2}}, {{math.MinInt64, math.MaxInt64}}, {{0, 0, 0, 0, 0}},
+	}
+	for _, s := range wrongScatters()[:9] {
+		list = append(list, s.points)
+	}
+	return list
+}
+
 func temperPool() []impl.Temper { return slices.Concat(someTempers(), wrongTempers()[:30]) }
 
 func poolOf[T any](list []T) []reflect.Value {
@@ -387,6 +434,7 @@ var argumentPools = sync.OnceValue(func() [][]reflect.Value {
 		poolOf(numberListPool()), poolOf(fractionListPool()), poolOf(registerPool()), poolOf(congruencePool()),
 		poolOf(streamsPool()), poolOf(lawPool()),
 		poolOf(machinePool()), poolOf(seenPool()), poolOf(temperPool()), poolOf(walkPool()),
+		poolOf(netPool()), poolOf(pointListPool()),
 	}
 })
 
@@ -543,6 +591,9 @@ func TestPromise1Hidden(t *testing.T) { checkPromise1(t, hiddenFunctions()) }
 // Promise 1, as far as it speaks of chapter 9.
 func TestPromise1Walks(t *testing.T) { checkPromise1(t, walkFunctions()) }
 
+// Promise 1, as far as it speaks of chapter 10.
+func TestPromise1Points(t *testing.T) { checkPromise1(t, pointFunctions()) }
+
 func TestPromise1LongArguments(t *testing.T) {
 	long := strings.Repeat("1", 1<<20)
 	commas := strings.Repeat("1,", 1<<20)
@@ -573,6 +624,7 @@ func TestPromise1LongArguments(t *testing.T) {
 	checkLongOrders(t)
 	checkLongMachines(t)
 	checkLongWalks(t)
+	checkLongPoints(t)
 	if _, ok := impl.CheckOf(0, long); !ok {
 		t.Error("CheckOf fails for a long text")
 	}
@@ -728,5 +780,37 @@ func checkLongWalks(t *testing.T) {
 		if impl.ValidWalk(w) || impl.IsReversible(w) || step || contraction || settled || times || mixed || next || after {
 			t.Errorf("a walk with %d rows, or a long one, is accepted", len(w.Rows))
 		}
+	}
+}
+
+func checkLongPoints(t *testing.T) {
+	t.Helper()
+	long := make([]int64, 1<<20)
+	for _, bits := range []int64{0, 6, 1 << 20} {
+		for _, n := range []impl.Net{{Bits: bits, Matrices: [][]int64{long}}, {Bits: bits, Matrices: make([][]int64, 1<<20)}} {
+			_, points := impl.NetPoints(n)
+			_, quality := impl.QualityOf(n)
+			_, scrambled := impl.ScrambleNet(n, 0, long)
+			if impl.ValidNet(n) || points || quality || scrambled {
+				t.Errorf("a net with %d matrices is accepted", len(n.Matrices))
+			}
+		}
+		for _, list := range [][][]int64{repeated([]int64{0, 0}, 1<<20), {long}, {{0}, long}} {
+			_, counts := impl.BoxCounts(list, bits, []int64{0, 0})
+			_, wide := impl.BoxCounts(list, bits, long)
+			_, shifted := impl.ShiftPoints(list, bits, long)
+			_, distance := impl.StarDistance(list, bits)
+			if impl.IsPoints(list, bits) || impl.IsEven(list, bits, []int64{0, 0}) || counts || wide || shifted || distance {
+				t.Errorf("%d points are accepted", len(list))
+			}
+		}
+	}
+	right := [][]int64{{0, 0}}
+	_, scrambled := impl.ScrambleNet(impl.Net{Bits: 1, Matrices: [][]int64{{1}}}, 0, long)
+	_, counts := impl.BoxCounts(right, 6, long)
+	_, shifted := impl.ShiftPoints(right, 6, long)
+	_, halton := impl.HaltonPoint(1, repeated[int64](2, 1<<20))
+	if scrambled || counts || shifted || halton || impl.IsEven(right, 6, long) {
+		t.Error("a long list is accepted for a net, for points or as bases")
 	}
 }
