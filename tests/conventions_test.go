@@ -242,6 +242,27 @@ func pointFunctions() []listed {
 	}
 }
 
+func labFunctions() []listed {
+	return []listed{
+		{"ValidStream", impl.ValidStream, false},
+		{"TakeBits", impl.TakeBits, true},
+		{"SkipStream", impl.SkipStream, true},
+		{"StreamCycle", impl.StreamCycle, true},
+		{"SplitStream", impl.SplitStream, true},
+		{"AreApart", impl.AreApart, true},
+		{"FacesOf", impl.FacesOf, true},
+		{"OrderOf", impl.OrderOf, true},
+		{"StreamLevels", impl.StreamLevels, true},
+		{"StreamText", impl.StreamText, true},
+		{"ReadStream", impl.ReadStream, true},
+		{"ValidLab", impl.ValidLab, false},
+		{"LabCommand", impl.LabCommand, true},
+		{"RunLab", impl.RunLab, true},
+		{"JournalOf", impl.JournalOf, true},
+		{"RecoverJournal", impl.RecoverJournal, true},
+	}
+}
+
 func numberPool() []int64 {
 	return []int64{
 		math.MinInt64, math.MinInt64 + 1, -impl.MaxPart - 1, -impl.MaxPart,
@@ -272,6 +293,10 @@ func textPool() []string {
 		"10,3,1", "10,10,1", "100000,99999,99999", "100001,1,1", "2,0,0", "1,0,0", "10,3", "10,3,1,0", "10,03,1",
 		"10", "01101001", strings.Repeat("0", 64), strings.Repeat("1", 64), strings.Repeat("0110100110010110", 4), strings.Repeat("1", 63), strings.Repeat("0", 128),
 		"010101", "111111", "0101010", strings.Repeat("01", 25), strings.Repeat("1", 50), strings.Repeat("0", 51), "0110 ", "０１",
+		"r:3:3:1", "c:10:3:1:0", "r:3:3:8", "c:10:3:1:0:0", "r:0:0:0", "r:3:3:1:", "c:100000:21:3:99999",
+		"set q r:3:3:1", "copy x y", "drop x", "bits x 3", "skip y 2", "roll x 6", "cards x 5", "levels x 9", "show x", "cycle y",
+		"set q r:3:3:1\nbits q 9\ndrop x\ncards q 12\n", "roll x 3\nlevels y 50\nfly\n\nshow x\n", "show x\nshow x",
+		"98 a\n98 \nxx", "0 \n0 \n", "98 a\n97 \n", strings.Repeat("\n", 4000), strings.Repeat("\n", 4001),
 	}
 }
 
@@ -336,6 +361,7 @@ func streamsPool() [][]string {
 	return [][]string{
 		nil, {}, {""}, {"0"}, {"2"}, {long}, {long + "0"}, {"0011", "0101"}, {"0011", "010"}, {"0011", "01a1"}, {"", ""},
 		{"0011", "0101", "1111"}, {"é0", "000", "000"}, repeated(long, 6), repeated(long+"1", 6), repeated("", 6), repeated("1", 7), repeated("01", 0),
+		{"a", ""}, {"a\nb"}, {"set x r:3:3:1", "bits x 3", " ", "\xff"}, repeated("", 1333), repeated("", 1334), {strings.Repeat("a", 4000)},
 	}
 }
 
@@ -417,6 +443,25 @@ func pointListPool() [][][]int64 {
 	return list
 }
 
+func streamPool() []impl.Stream {
+	r, c := exampleStreams()
+	list := []impl.Stream{
+		r, c, {}, lateOnes(), endlessOnes()[0], ofRegister(impl.Register{Width: 16, Taps: 4107}, 65535), ofCongruence(impl.Congruence{Modulus: 1000, Factor: 21, Add: 3}, 999),
+		ofCongruence(impl.Congruence{Modulus: 64, Factor: 2, Add: 1}, 7), {Kind: -1}, {Kind: 2, Register: r.Register}, {Kind: math.MaxInt64}, {Kind: impl.StreamCongruence},
+	}
+	return slices.Concat(list, wrongStreams()[:2], wrongStates()[:10])
+}
+
+// labPool has, besides other labs and wrong ones, labs with spare capacity.
+func labPool() []impl.Lab {
+	r, c := exampleStreams()
+	spare, wrong := exampleLab(), wrongLabs()
+	spare.Names = append(repeated("spare", 10)[:0], spare.Names...)
+	spare.Streams = append(repeated(r, 10)[:0], spare.Streams...)
+	list := []impl.Lab{{}, spare, fullLab(), {Names: repeated("x", 1), Streams: repeated(c, 1)}, {Names: repeated("x", 0), Streams: repeated(c, 0)}}
+	return slices.Concat(list, wrong[:16], wrong[len(wrong)-4:])
+}
+
 func temperPool() []impl.Temper { return slices.Concat(someTempers(), wrongTempers()[:30]) }
 
 func poolOf[T any](list []T) []reflect.Value {
@@ -434,7 +479,7 @@ var argumentPools = sync.OnceValue(func() [][]reflect.Value {
 		poolOf(numberListPool()), poolOf(fractionListPool()), poolOf(registerPool()), poolOf(congruencePool()),
 		poolOf(streamsPool()), poolOf(lawPool()),
 		poolOf(machinePool()), poolOf(seenPool()), poolOf(temperPool()), poolOf(walkPool()),
-		poolOf(netPool()), poolOf(pointListPool()),
+		poolOf(netPool()), poolOf(pointListPool()), poolOf(streamPool()), poolOf(labPool()),
 	}
 })
 
@@ -501,7 +546,7 @@ func isNothing(v reflect.Value) bool {
 	return v.IsZero() || v.Kind() == reflect.Slice && v.Len() == 0
 }
 
-// spoil changes all numbers in the lists of a result.
+// spoil changes all numbers and texts in the lists of a result.
 func spoil(v reflect.Value) {
 	switch v.Kind() {
 	case reflect.Slice:
@@ -515,6 +560,10 @@ func spoil(v reflect.Value) {
 	case reflect.Int64:
 		if v.CanSet() {
 			v.SetInt(99)
+		}
+	case reflect.String:
+		if v.CanSet() {
+			v.SetString("spoiled")
 		}
 	}
 }
@@ -594,6 +643,9 @@ func TestPromise1Walks(t *testing.T) { checkPromise1(t, walkFunctions()) }
 // Promise 1, as far as it speaks of chapter 10.
 func TestPromise1Points(t *testing.T) { checkPromise1(t, pointFunctions()) }
 
+// Promise 1, as far as it speaks of chapter 11.
+func TestPromise1Lab(t *testing.T) { checkPromise1(t, labFunctions()) }
+
 func TestPromise1LongArguments(t *testing.T) {
 	long := strings.Repeat("1", 1<<20)
 	commas := strings.Repeat("1,", 1<<20)
@@ -625,6 +677,7 @@ func TestPromise1LongArguments(t *testing.T) {
 	checkLongMachines(t)
 	checkLongWalks(t)
 	checkLongPoints(t)
+	checkLongLabs(t, long)
 	if _, ok := impl.CheckOf(0, long); !ok {
 		t.Error("CheckOf fails for a long text")
 	}
@@ -812,5 +865,28 @@ func checkLongPoints(t *testing.T) {
 	_, halton := impl.HaltonPoint(1, repeated[int64](2, 1<<20))
 	if scrambled || counts || shifted || halton || impl.IsEven(right, 6, long) {
 		t.Error("a long list is accepted for a net, for points or as bases")
+	}
+}
+
+func checkLongLabs(t *testing.T, long string) {
+	t.Helper()
+	right, names, streams := impl.Lab{}, repeated("x", 1<<20), make([]impl.Stream, 1<<20)
+	for _, l := range []impl.Lab{{Names: names, Streams: streams}, {Names: names}, {Streams: streams}, {Names: []string{long}, Streams: streams[:1]}} {
+		_, _, command := impl.LabCommand(l, "what")
+		_, _, run := impl.RunLab(l, "")
+		if impl.ValidLab(l) || command || run {
+			t.Errorf("a lab with %d names and %d streams is accepted", len(l.Names), len(l.Streams))
+		}
+	}
+	_, read := impl.ReadStream(long)
+	_, _, run := impl.RunLab(right, long+"\n")
+	_, many := impl.JournalOf(names)
+	_, wide := impl.JournalOf([]string{long})
+	_, _, recovered := impl.RecoverJournal(long)
+	if read || run || many || wide || recovered {
+		t.Errorf("a text with %d bytes is accepted", len(long))
+	}
+	if _, output, ok := impl.LabCommand(right, long); !ok || output != "what" {
+		t.Error("LabCommand fails for a long line")
 	}
 }
